@@ -3,6 +3,7 @@ package hazard
 import (
 	"reclaim/api"
 	"reclaim/arena"
+	"reclaim/chain"
 	"reclaim/word"
 )
 
@@ -56,7 +57,7 @@ func (p *posting) run(now *turn) bool {
 		if !now.access() {
 			return false
 		}
-		if !now.Swap(p.cellAddr(), p.seen, linkTo(p.taking.Slot())) {
+		if !now.Swap(p.cellAddr(), p.seen, chain.Link(p.taking.Slot())) {
 			p.next = loadCell
 			return false
 		}

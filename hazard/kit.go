@@ -3,6 +3,7 @@ package hazard
 import (
 	"reclaim/api"
 	"reclaim/arena"
+	"reclaim/chain"
 	"reclaim/machine"
 	"reclaim/word"
 )
@@ -66,7 +67,7 @@ type clearing struct {
 func (c *clearing) Ready(*machine.Desk) bool { return false }
 
 func (c *clearing) Step(d *machine.Desk) bool {
-	d.Store(c.hazard, linkTo(none))
+	d.Store(c.hazard, chain.Link(none))
 	return true
 }
 

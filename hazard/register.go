@@ -1,6 +1,9 @@
 package hazard
 
-import "reclaim/api"
+import (
+	"reclaim/api"
+	"reclaim/chain"
+)
 
 // registering is a call that takes a record.
 type registering struct {
@@ -82,7 +85,7 @@ func (u *unregistering) run(now *turn) bool {
 			if !now.access() {
 				return false
 			}
-			now.Store(u.Addr(u.thread, u.k), linkTo(none))
+			now.Store(u.Addr(u.thread, u.k), chain.Link(none))
 		}
 		u.next = scanList
 		fallthrough
