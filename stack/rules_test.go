@@ -306,13 +306,14 @@ func TestRules(t *testing.T) {
 	}
 }
 
-// P6.5 to P6.8: likewise of all ways in which three calls of two threads can meet, each thread's
-// steps in two stretches.
-func TestRulesOfAllMeetings(t *testing.T) {
+// P6.5 to P6.8: likewise of three calls of two threads, over stacks of up to two values: the first
+// one is cut at each of its steps, the second one is made whole there, and the third one is cut at
+// each of its steps by the rest of the first.
+func TestRulesOfCutCalls(t *testing.T) {
 	calls := []func(thread int) api.Move{func(thread int) api.Move { return push(thread, 7+thread) }, pop}
 	for held := range 3 {
 		for kind := range 8 {
-			for cut := range 9 {
+			for cut := range 20 {
 				for other := range 20 {
 					w := watchOf(t, configOf(2, 2, 1, 0, 3), map[string]int{})
 					w.calls(t, register(0), register(1))
