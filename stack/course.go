@@ -1,9 +1,6 @@
 package stack
 
-import (
-	"reclaim/api"
-	"reclaim/machine"
-)
+import "reclaim/machine"
 
 // course is how a call goes on: next is the method of the call that makes its next access, with the
 // local work behind it, and puts there the one that comes after it; nil: the call has ended.
@@ -27,10 +24,4 @@ func (c *course) Step(d *machine.Desk) bool {
 		c.next(d)
 	}
 	return c.next == nil
-}
-
-// tellHere makes this move the call's point, and tells an answer that has no value.
-func tellHere(d *machine.Desk, kind api.AnswerKind) {
-	d.Point(d.Now())
-	d.Answer(api.Answer{Kind: kind})
 }

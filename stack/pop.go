@@ -2,6 +2,7 @@ package stack
 
 import (
 	"reclaim/api"
+	"reclaim/base"
 	"reclaim/chain"
 	"reclaim/hazard"
 	"reclaim/machine"
@@ -21,7 +22,7 @@ type popping struct {
 }
 
 func (p *pile) pop(thread int) *popping {
-	c := &popping{pile: p, thread: thread, hazard: p.hazards.Addr(thread, 0)}
+	c := &popping{pile: p, thread: thread, hazard: p.Hazards.Addr(thread, 0)}
 	c.next = c.loadTop
 	return c
 }
@@ -38,7 +39,7 @@ func (c *popping) see(d *machine.Desk, top uint64) {
 	if c.top() != chain.None {
 		return
 	}
-	tellHere(d, api.AnswerEmpty)
+	base.TellHere(d, api.AnswerEmpty)
 	c.next = nil
 	if c.named {
 		c.next = c.clearLast
@@ -47,7 +48,7 @@ func (c *popping) see(d *machine.Desk, top uint64) {
 
 // top is the slot that was on top when Top was loaded last.
 func (c *popping) top() int {
-	return c.slotOf(c.seen)
+	return c.Slot(c.seen)
 }
 
 func (c *popping) nameTop(d *machine.Desk) {
@@ -78,7 +79,7 @@ func (c *popping) swapTop(d *machine.Desk) {
 		return
 	}
 	d.Point(d.Now())
-	c.arena.Shift(d, c.top(), api.StateDetached)
+	c.Arena.Shift(d, c.top(), api.StateDetached)
 	c.next = c.loadValue
 }
 
@@ -92,7 +93,7 @@ func (c *popping) loadValue(d *machine.Desk) {
 // thread's hazard.
 func (c *popping) clearHazard(d *machine.Desk) {
 	d.Store(c.hazard, chain.Link(chain.None))
-	c.retiring = c.hazards.Retire(c.thread, c.top())
+	c.retiring = c.Hazards.Retire(c.thread, c.top())
 	c.retired(c.retiring.Ready(d))
 }
 

@@ -3,6 +3,7 @@ package stack
 import (
 	"reclaim/api"
 	"reclaim/arena"
+	"reclaim/base"
 	"reclaim/chain"
 	"reclaim/machine"
 	"reclaim/word"
@@ -18,7 +19,7 @@ type pushing struct {
 }
 
 func (p *pile) push(thread int, value int) *pushing {
-	c := &pushing{pile: p, value: value, taking: p.arena.Take(thread)}
+	c := &pushing{pile: p, value: value, taking: p.Arena.Take(thread)}
 	c.ahead, c.next = c.beginTake, c.takeOn
 	return c
 }
@@ -36,7 +37,7 @@ func (c *pushing) taken(d *machine.Desk, ended bool) {
 	switch {
 	case !ended:
 	case c.taking.Slot() == chain.None:
-		tellHere(d, api.AnswerFull)
+		base.TellHere(d, api.AnswerFull)
 		c.next = nil
 	default:
 		c.next = c.storeValue
@@ -63,7 +64,7 @@ func (c *pushing) swapTop(d *machine.Desk) {
 		c.next = c.loadTop
 		return
 	}
-	tellHere(d, api.AnswerDone)
-	c.arena.Shift(d, c.taking.Slot(), api.StateLinked)
+	base.TellHere(d, api.AnswerDone)
+	c.Arena.Shift(d, c.taking.Slot(), api.StateLinked)
 	c.next = nil
 }
