@@ -29,6 +29,22 @@ func Slot(c api.Config, w uint64) int {
 	return slot
 }
 
+// Marked tells whether a word is a link that has a mark.
+func Marked(w uint64) bool {
+	_, mark, e := word.Unlink(w)
+	return e == api.OK && mark
+}
+
+// Mark is a link with a mark, or without one; a word that is no link stays as it is.
+func Mark(w uint64, mark bool) uint64 {
+	slot, _, e := word.Unlink(w)
+	if e != api.OK {
+		return w
+	}
+	w, _ = word.Link(slot, mark)
+	return w
+}
+
 // Link is the plain link to a slot; of None, the one to none.
 func Link(slot int) uint64 {
 	w, _ := word.Link(slot, false)

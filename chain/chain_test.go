@@ -49,3 +49,24 @@ func TestSlot(t *testing.T) {
 		}
 	}
 }
+
+// A link has a mark or not, with a slot or with none; a word that is no link has none, and gets none.
+func TestMarks(t *testing.T) {
+	for _, slot := range []int{-1, 0, 2, 7, api.MaxIndex} {
+		plain, _ := word.Link(slot, false)
+		marked, _ := word.Link(slot, true)
+		if chain.Marked(plain) || !chain.Marked(marked) {
+			t.Errorf("Marked of slot %d: %v, %v", slot, chain.Marked(plain), chain.Marked(marked))
+		}
+		for _, w := range []uint64{plain, marked} {
+			if chain.Mark(w, true) != marked || chain.Mark(w, false) != plain {
+				t.Errorf("Mark(%x) = %x, %x", w, chain.Mark(w, true), chain.Mark(w, false))
+			}
+		}
+	}
+	for _, w := range []uint64{1<<31 + 7, 1<<32 - 1, 1 << 33, 1<<33 + 1<<32 + 1, math.MaxUint64} {
+		if chain.Marked(w) || chain.Mark(w, true) != w || chain.Mark(w, false) != w {
+			t.Errorf("%x: %v, %x, %x", w, chain.Marked(w), chain.Mark(w, true), chain.Mark(w, false))
+		}
+	}
+}
