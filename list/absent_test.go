@@ -144,6 +144,57 @@ func TestPartsBegin(t *testing.T) {
 	y.wantKeys(t, 5)
 }
 
+// made makes calls of thread 0 over a list of the key 5, as the kit and the face make them.
+func (y *yard) made() []machine.Task {
+	tasks := []machine.Task{list.Inserting(y.Hazards, 0, rootAddr, 6, 7)}
+	for _, mv := range []api.Move{insert(0, 5), insert(0, 4), remove(0, 5), remove(0, 6), contains(0, 5)} {
+		tasks = append(tasks, list.Kit(y.Hazards)[mv.Op](0, mv))
+	}
+	return tasks
+}
+
+// P5: a call whose thread has let its record go ahead of the first step finds nothing there, whether or
+// not it is asked to be ready.
+func TestCallsThatLoseTheirRecord(t *testing.T) {
+	y := listOf(t, 5)
+	ready, step := y.made(), y.made()
+	y.call(t, unregister(0))
+	for _, task := range ready {
+		y.wantNothingDone(t, task, no)
+	}
+	for _, task := range step {
+		y.wantNothingDone(t, stepped{task}, no)
+	}
+	y.wantKeys(t, 5)
+}
+
+// stepped is a task whose Ready nobody calls.
+type stepped struct{ machine.Task }
+
+func (s stepped) Ready(*machine.Desk) bool { return false }
+
+// P5: one that has let it go on its way comes to an end, too.
+func TestCallsThatLoseTheirRecordOnTheWay(t *testing.T) {
+	for number := range listOf(t, 5).made() {
+		for steps := 1; steps <= 10; steps++ {
+			y := listOf(t, 5)
+			y.begin(t, 1, y.made()[number])
+			y.steps(t, 1, steps)
+			y.call(t, unregister(0))
+			y.finish(t, 1)
+		}
+	}
+	// A call that comes to leave when there is nothing to be cleared ends there.
+	y := listOf(t, 5)
+	y.begin(t, 1, list.Kit(y.Hazards)[api.OpContains](0, contains(0, 5)))
+	y.steps(t, 1, 7)
+	y.call(t, unregister(0))
+	if steps := y.finish(t, 1); steps != 1 {
+		t.Errorf("%d steps more", steps)
+	}
+	y.wantAnswer(t, 1, yes)
+}
+
 // P5: at a desk that no machine handed out nothing panics, and no step makes an access.
 func TestAtNobodysDesk(t *testing.T) {
 	for _, d := range []*machine.Desk{nil, {}} {
@@ -265,6 +316,20 @@ func TestRootOfNoSlot(t *testing.T) {
 			t.Errorf("%x is put behind it", w)
 		}
 	}
+}
+
+// A root with a mark names its slot all the same.
+func TestRootWithAMark(t *testing.T) {
+	y := listOf(t, 5)
+	y.call(t, poked(0, rootAddr, marked(0)))
+	f := y.find(t, 5)
+	from := y.accesses()
+	y.finish(t, 1)
+	k := track{y, 1}
+	look := k.look(rootAddr, 0, 0, 5)
+	look[4].Saw = marked(0)
+	y.wantSeen(t, from, slices.Concat(k.first(marked(0)), look)...)
+	wantFound(t, f, found{true, 0, y.begun(1) + 6, rootAddr, marked(0), 0})
 }
 
 // A link that names no slot has nothing behind it: the list ends there.

@@ -54,10 +54,9 @@ func (f *Finding) Ready(*machine.Desk) bool {
 	return f.next == over
 }
 
-// again begins the part anew.
+// again begins the part anew: what it found out along the way may not be so any more.
 func (f *Finding) again() {
 	f.next = loadRoot
-	f.done = false
 }
 
 // Step makes an access.
@@ -115,7 +114,7 @@ func (f *Finding) seeRoot(now int, w uint64) {
 func (f *Finding) goOn(still bool, next place) {
 	f.next = next
 	if !still {
-		f.next = loadRoot
+		f.again()
 	}
 }
 
@@ -129,7 +128,7 @@ func (f *Finding) behind() uint64 {
 func (f *Finding) judge(now int, w uint64) {
 	switch {
 	case w != f.saw:
-		f.next = loadRoot
+		f.again()
 	case chain.Marked(f.link):
 		f.next = unlinkSlot
 	case f.value == f.key:
@@ -154,7 +153,7 @@ func (f *Finding) pass() {
 // unlink takes the marked slot out, if nothing has changed ahead of it, and retires it.
 func (f *Finding) unlink(d *machine.Desk) {
 	if !d.Swap(f.at, f.saw, f.behind()) {
-		f.next = loadRoot
+		f.again()
 		return
 	}
 	f.seen = d.Now()

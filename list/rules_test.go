@@ -411,7 +411,7 @@ func TestRulesOfCutCalls(t *testing.T) {
 		for kind := range 27 {
 			for _, key := range []int{4, 5} {
 				for cut := range 21 {
-					for other := 1; other < 21; other += 4 {
+					for other := 1; other < 21; other += 5 {
 						w := watchOf(t, configOf(2, 2, 1, 0, 4), map[string]int{})
 						w.calls(t, register(0), register(1))
 						w.run = w.m.Run()
