@@ -148,15 +148,12 @@ func TestNewIsOverOneArena(t *testing.T) {
 		wantCall(t, m, move(0, api.OpScan, 0), done)
 	}
 	took := call(t, m, move(0, api.OpTake, 0))
-	all(took0(took))
+	all(move(0, api.OpTake, 0))
 	wantCall(t, m, move(0, api.OpGive, took.Answer.Value), done)
 	wantCall(t, m, move(0, api.OpPost, 3), done)
 	wantCall(t, m, move(0, api.OpRead, 2), value(3))
 	all(move(0, api.OpPost, 3))
 }
-
-// took0 is the move that began a call.
-func took0(c api.Call) api.Move { return move(c.Thread, c.Op, c.Arg) }
 
 // P10.1: two machines share nothing: what one does is none of the other's, whichever comes first.
 func TestMachinesApart(t *testing.T) {

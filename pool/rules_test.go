@@ -257,8 +257,11 @@ func (w *watch) wantEnd(t *testing.T, mv api.Move, accessed bool) {
 	t.Helper()
 	call, known := w.m.Call(mv.Thread)
 	ended := known && call.End == w.m.Moves()-1
-	if w.gap++; ended || !accessed {
-		w.gap = map[bool]int{true: 0, false: w.gap - 1}[ended]
+	switch {
+	case ended:
+		w.gap = 0
+	case accessed:
+		w.gap++
 	}
 	if w.gap >= w.window() {
 		t.Fatalf("no call has ended for %d steps", w.gap)
