@@ -2,8 +2,8 @@ package stack
 
 import (
 	"reclaim/api"
-	"reclaim/base"
 	"reclaim/chain"
+	"reclaim/course"
 	"reclaim/hazard"
 	"reclaim/machine"
 	"reclaim/word"
@@ -11,7 +11,7 @@ import (
 
 // popping is a call that takes the top's slot out, and tells its value.
 type popping struct {
-	course
+	course.Course
 	*pile
 	thread   int
 	hazard   int    // the address of hazard 0
@@ -23,7 +23,7 @@ type popping struct {
 
 func (p *pile) pop(thread int) *popping {
 	c := &popping{pile: p, thread: thread, hazard: p.Hazards.Addr(thread, 0)}
-	c.next = c.loadTop
+	c.Next = c.loadTop
 	return c
 }
 
@@ -35,14 +35,13 @@ func (c *popping) loadTop(d *machine.Desk) {
 // hazard that names what was on top ahead of that is cleared, so that it keeps nothing back.
 func (c *popping) see(d *machine.Desk, top uint64) {
 	c.seen = top
-	c.next = c.nameTop
+	c.Next = c.nameTop
 	if c.top() != chain.None {
 		return
 	}
-	base.TellHere(d, api.AnswerEmpty)
-	c.next = nil
+	c.EndHere(d, api.AnswerEmpty)
 	if c.named {
-		c.next = c.clearLast
+		c.Next = c.clearLast
 	}
 }
 
@@ -54,7 +53,7 @@ func (c *popping) top() int {
 func (c *popping) nameTop(d *machine.Desk) {
 	d.Store(c.hazard, c.seen)
 	c.named = true
-	c.next = c.loadAgain
+	c.Next = c.loadAgain
 }
 
 // loadAgain asks whether the slot was still on top when the hazard named it: only from then on it
@@ -65,28 +64,28 @@ func (c *popping) loadAgain(d *machine.Desk) {
 		c.see(d, top)
 		return
 	}
-	c.next = c.loadLink
+	c.Next = c.loadLink
 }
 
 func (c *popping) loadLink(d *machine.Desk) {
 	c.behind = d.Load(c.linkAddr(c.top()))
-	c.next = c.swapTop
+	c.Next = c.swapTop
 }
 
 func (c *popping) swapTop(d *machine.Desk) {
 	if !d.Swap(c.topAddr(), c.seen, c.behind) {
-		c.next = c.loadTop
+		c.Next = c.loadTop
 		return
 	}
 	d.Point(d.Now())
 	c.Arena.Shift(d, c.top(), api.StateDetached)
-	c.next = c.loadValue
+	c.Next = c.loadValue
 }
 
 func (c *popping) loadValue(d *machine.Desk) {
 	w := d.Load(c.valueAddr(c.top()))
 	d.Answer(api.Answer{Kind: api.AnswerValue, Value: word.Value(w)})
-	c.next = c.clearHazard
+	c.Next = c.clearHazard
 }
 
 // clearHazard comes ahead of the part that retires the slot, which would else be kept by its own
@@ -103,13 +102,13 @@ func (c *popping) retireOn(d *machine.Desk) {
 
 // retired ends the call with the part that retires the slot.
 func (c *popping) retired(ended bool) {
-	c.next = c.retireOn
+	c.Next = c.retireOn
 	if ended {
-		c.next = nil
+		c.Next = nil
 	}
 }
 
 func (c *popping) clearLast(d *machine.Desk) {
 	d.Store(c.hazard, chain.Link(chain.None))
-	c.next = nil
+	c.Next = nil
 }

@@ -3,15 +3,15 @@ package stack
 import (
 	"reclaim/api"
 	"reclaim/arena"
-	"reclaim/base"
 	"reclaim/chain"
+	"reclaim/course"
 	"reclaim/machine"
 	"reclaim/word"
 )
 
 // pushing is a call that puts a slot with a value on top.
 type pushing struct {
-	course
+	course.Course
 	*pile
 	value  int
 	taking *arena.Taking
@@ -20,7 +20,7 @@ type pushing struct {
 
 func (p *pile) push(thread int, value int) *pushing {
 	c := &pushing{pile: p, value: value, taking: p.Arena.Take(thread)}
-	c.ahead, c.next = c.beginTake, c.takeOn
+	c.Ahead, c.Next = c.beginTake, c.takeOn
 	return c
 }
 
@@ -37,34 +37,32 @@ func (c *pushing) taken(d *machine.Desk, ended bool) {
 	switch {
 	case !ended:
 	case c.taking.Slot() == chain.None:
-		base.TellHere(d, api.AnswerFull)
-		c.next = nil
+		c.EndHere(d, api.AnswerFull)
 	default:
-		c.next = c.storeValue
+		c.Next = c.storeValue
 	}
 }
 
 func (c *pushing) storeValue(d *machine.Desk) {
 	d.Store(c.valueAddr(c.taking.Slot()), word.Number(c.value))
-	c.next = c.loadTop
+	c.Next = c.loadTop
 }
 
 func (c *pushing) loadTop(d *machine.Desk) {
 	c.seen = d.Load(c.topAddr())
-	c.next = c.storeLink
+	c.Next = c.storeLink
 }
 
 func (c *pushing) storeLink(d *machine.Desk) {
 	d.Store(c.linkAddr(c.taking.Slot()), c.seen)
-	c.next = c.swapTop
+	c.Next = c.swapTop
 }
 
 func (c *pushing) swapTop(d *machine.Desk) {
 	if !d.Swap(c.topAddr(), c.seen, chain.Link(c.taking.Slot())) {
-		c.next = c.loadTop
+		c.Next = c.loadTop
 		return
 	}
-	base.TellHere(d, api.AnswerDone)
 	c.Arena.Shift(d, c.taking.Slot(), api.StateLinked)
-	c.next = nil
+	c.EndHere(d, api.AnswerDone)
 }
