@@ -30,6 +30,19 @@ func (c *Course) Step(d *machine.Desk) bool {
 	return c.Next == nil
 }
 
+// Through goes on with a part, and behind its end, which may be here already, with what comes then.
+func (c *Course) Through(d *machine.Desk, part machine.Task, then func(d *machine.Desk)) {
+	if part.Ready(d) {
+		then(d)
+		return
+	}
+	c.Next = func(d *machine.Desk) {
+		if part.Step(d) {
+			then(d)
+		}
+	}
+}
+
 // EndHere ends the call with an answer that has no value; its point is this move.
 func (c *Course) EndHere(d *machine.Desk, kind api.AnswerKind) {
 	d.Point(d.Now())

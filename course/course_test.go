@@ -1,6 +1,7 @@
 package course_test
 
 import (
+	"slices"
 	"testing"
 
 	"reclaim/api"
@@ -80,5 +81,52 @@ func TestCourseThatHasEnded(t *testing.T) {
 	}
 	if zero := (&course.Course{}); !zero.Ready(nil) || !zero.Step(nil) {
 		t.Error("one without anything to do has not ended")
+	}
+}
+
+// part makes so many accesses, and tells of each that it has made it.
+type part struct {
+	left int
+	told *[]string
+}
+
+func (p *part) Ready(*machine.Desk) bool {
+	*p.told = append(*p.told, "ready")
+	return p.left == 0
+}
+
+func (p *part) Step(*machine.Desk) bool {
+	*p.told = append(*p.told, "step")
+	p.left--
+	return p.left == 0
+}
+
+// A part begins as soon as one comes to it, is stepped till it has ended, and what comes then comes in that step:
+// at once, where the part needs no access.
+func TestThrough(t *testing.T) {
+	var told []string
+	c := &course.Course{}
+	end := func(*machine.Desk) {
+		told = append(told, "end")
+		c.Next = nil
+	}
+	second := func(d *machine.Desk) {
+		told = append(told, "second")
+		c.Through(d, &part{0, &told}, func(d *machine.Desk) { c.Through(d, &part{1, &told}, end) })
+	}
+	c.Next = func(d *machine.Desk) {
+		told = append(told, "first")
+		c.Through(d, &part{2, &told}, second)
+	}
+	for step, want := range [][]string{{"first", "ready"}, {"step"}, {"step", "second", "ready", "ready"}, {"step", "end"}} {
+		told = nil
+		if ended := c.Step(nil); ended != (step == 3) || !slices.Equal(told, want) {
+			t.Errorf("step %d: %v, ended: %v, not %v", step, told, ended, want)
+		}
+	}
+	told = nil
+	c.Ahead = func(d *machine.Desk) { c.Through(d, &part{0, &told}, end) }
+	if !c.Ready(nil) || !slices.Equal(told, []string{"ready", "end"}) {
+		t.Errorf("%v", told)
 	}
 }
