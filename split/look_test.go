@@ -212,6 +212,8 @@ func TestLookAtOddShapes(t *testing.T) {
 		"a bucket that is no link":  func(p *paper) { p.put(bucketAt(4), 1<<33) },
 		"the last bucket no link":   func(p *paper) { p.put(bucketAt(5), 1<<31) },
 		"a bucket of ones":          func(p *paper) { p.put(bucketAt(5), math.MaxUint64) },
+		"slot 0's bucket no link":   func(p *paper) { p.put(bucketAt(1), 1<<33) },
+		"slot 0's with a bit more":  func(p *paper) { p.put(bucketAt(1), 1<<33+link(0)) },
 		"a size of 0":               func(p *paper) { p.put(sizeAt(p.s), 0) },
 		"a size of 3":               func(p *paper) { p.put(sizeAt(p.s), 3) },
 		"a size of 5":               func(p *paper) { p.put(sizeAt(p.s), 5) },
