@@ -24,16 +24,14 @@ func callOf(first frame) *call {
 	return &call{frames: []frame{first}}
 }
 
-// Ready has nothing to do ahead of the first access.
+// Ready has nothing to do: each call makes an access.
 func (c *call) Ready(*machine.Desk) bool {
-	return c.ended()
+	return false
 }
 
 // Step makes an access: the last frame's.
 func (c *call) Step(d *machine.Desk) bool {
-	if !c.ended() {
-		c.last().step(c, d)
-	}
+	c.last().step(c, d)
 	return c.ended()
 }
 
